@@ -130,6 +130,13 @@ func TestBoundsAreAllowed(t *testing.T) {
 	same(t, "bounds", b, err, want...)
 }
 
+// 1.2: a Value that is Gone is not written, and so not wrong, however long it is.
+func TestGoneValueIsNotWrong(t *testing.T) {
+	c := api.Cmd{Kind: api.Write, Writes: []api.Pair{{Key: "a", Value: long(41), Gone: true}}}
+	b, err := Log([]api.Cmd{c})
+	same(t, "Gone", b, err, 1, 1, 0, 0, 1, 1, 'a', 1)
+}
+
 // wrongs: commands, and what they tell: by the last thing that is wrong, in the order in which it is written.
 func wrongs() []struct {
 	what string

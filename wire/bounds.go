@@ -11,5 +11,6 @@ const (
 // maxWrites is how many Writes a command may have: the chapter gives that bound no name.
 const maxWrites = 20
 
-// kindsRound: of a command's Kind, as a number, only what is left of it modulo this is looked at.
-const kindsRound = 8
+// kindBits: of a command's Kind, as a number, only what is left of it modulo 8 is looked at. Bits tell that from 0 to 7
+// also of a Kind below 0, where % would leave one below 0.
+const kindBits = 7

@@ -4,6 +4,7 @@ import (
 	"bytes"
 	"math"
 	"slices"
+	"strconv"
 	"strings"
 	"testing"
 
@@ -155,9 +156,11 @@ func wrongs() []struct {
 		{"Kind of a good one and 8", api.Cmd{Kind: 9}, api.ErrArg},
 		{"Kind above MaxNumber", api.Cmd{Kind: above}, api.ErrArg},
 		{"greatest Kind", api.Cmd{Kind: math.MaxInt}, api.ErrArg},
-		{"Kind -1: -1 is left", api.Cmd{Kind: -1}, api.ErrRange},
-		{"Kind -9: -1 is left", api.Cmd{Kind: -9}, api.ErrRange},
+		{"Kind -1: 7 is left", api.Cmd{Kind: -1}, api.ErrArg},
+		{"Kind -2: 6 is left", api.Cmd{Kind: -2}, api.ErrArg},
+		{"Kind -7: 1 is left, as of Write", api.Cmd{Kind: -7}, api.ErrArg},
 		{"Kind -8: 0 is left", api.Cmd{Kind: -8}, api.ErrArg},
+		{"Kind -9: 7 is left", api.Cmd{Kind: -9}, api.ErrArg},
 		{"least Kind: 0 is left", api.Cmd{Kind: math.MinInt}, api.ErrArg},
 		{"Tx below", api.Cmd{Kind: k, Tx: -1}, api.ErrRange},
 		{"Tx above", api.Cmd{Kind: k, Tx: above}, api.ErrRange},
@@ -171,7 +174,10 @@ func wrongs() []struct {
 		{"Kind, Tx", api.Cmd{Kind: 7, Tx: -1}, api.ErrRange},
 		{"Kind, Time", api.Cmd{Time: above}, api.ErrRange},
 		{"Kind, 21 Writes", api.Cmd{Kind: 9, Writes: pairs(21)}, api.ErrLimit},
-		{"Kind below, 21 Writes", api.Cmd{Kind: -1, Writes: pairs(21)}, api.ErrRange},
+		{"Kind below, 20 Writes", api.Cmd{Kind: -1, Writes: pairs(20)}, api.ErrArg},
+		{"Kind below, 21 Writes", api.Cmd{Kind: -1, Writes: pairs(21)}, api.ErrLimit},
+		{"Kind below, Tx", api.Cmd{Kind: -9, Tx: -1}, api.ErrRange},
+		{"Kind below, Time", api.Cmd{Kind: -1, Time: above}, api.ErrRange},
 		{"Kind, Key", api.Cmd{Writes: []api.Pair{key, {}}}, api.ErrLimit},
 		{"21 Writes, Tx", api.Cmd{Kind: k, Tx: -1, Writes: pairs(21)}, api.ErrRange},
 		{"21 Writes, Time", api.Cmd{Kind: k, Time: -1, Writes: pairs(21)}, api.ErrRange},
@@ -192,6 +198,22 @@ func TestWrongCommands(t *testing.T) {
 		is(t, "Msg: "+w.what, err, w.err)
 		if len(b)+len(m) > 0 {
 			t.Errorf("%s: bytes beside an error", w.what)
+		}
+	}
+}
+
+// 1.2: what is left of a Kind modulo 8 is from 0 to 7: behind a number out of range a wrong Kind tells ErrArg, whatever it is.
+func TestNoKindIsOutOfRange(t *testing.T) {
+	for _, from := range []int{0, math.MinInt / 2, math.MaxInt / 2, api.MaxNumber} {
+		for k := from - 40; k <= from+40; k++ {
+			want := api.ErrArg
+			if k >= api.Write && k <= api.Abort {
+				want = api.ErrRange
+			}
+			_, err := Log([]api.Cmd{{Kind: api.Commit, Tx: -1}, {Kind: k}})
+			is(t, "Log: Kind "+strconv.Itoa(k), err, want)
+			_, err = Msg(api.Msg{Kind: api.Forward, From: -1, Cmd: api.Cmd{Kind: k}})
+			is(t, "Msg: Kind "+strconv.Itoa(k), err, want)
 		}
 	}
 }

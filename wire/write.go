@@ -43,7 +43,7 @@ func (w *writer) text(s string, most int) {
 func (w *writer) command(c api.Cmd) {
 	w.need(c.Kind >= api.Write && c.Kind <= api.Abort, api.ErrArg)
 	w.need(len(c.Writes) <= maxWrites, api.ErrLimit)
-	w.numbers(c.Kind%kindsRound, c.Tx, c.Time, len(c.Writes))
+	w.numbers(c.Kind&kindBits, c.Tx, c.Time, len(c.Writes))
 	for _, p := range c.Writes {
 		w.pair(p)
 	}

@@ -17,7 +17,7 @@ func (h *House) settle() {
 func (h *House) hear() bool {
 	heard := false
 	for k, l := range h.lines {
-		for _, c := range h.news(k) {
+		for _, c := range l.news() {
 			h.follow(k, c)
 			l.heard++
 			heard = true

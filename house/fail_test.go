@@ -211,8 +211,7 @@ func TestDecisionsWithoutHead(t *testing.T) {
 	h.Calm()
 	state(t, h, id, Ending)
 	state(t, h, nowhere, Ending)
-	h.Fix()
-	h.Calm()
+	h.Fix() // one node is left: no message is to come
 	state(t, h, id, Committed)
 	state(t, h, nowhere, Committed)
 	gets(t, h, begin(t, h), a, "x")
@@ -301,6 +300,47 @@ func TestShardIsToldAgain(t *testing.T) {
 	logged(t, h, 0, 1, dropped(id))
 	logged(t, h, 1, 2, prepared(id, pair(b, "y")), dropped(id))
 	state(t, h, id, Aborted)
+}
+
+// 7.3: Fix tells nodes of their configuration, and they tell each other what is missing, without Tick.
+func TestFixTells(t *testing.T) {
+	for nodes := 3; nodes <= 4; nodes++ {
+		h := calmHouse(t, 1, nodes)
+		id := begin(t, h)
+		puts(t, h, id, "a", "x")
+		ends(t, h, id)
+		is(t, "Deliver", h.Deliver(0), api.OK)
+		loseAll(t, h)
+		fails(t, h, 0)
+		h.Fix()
+		count(t, "Many", h.Many(), nodes-1)
+		quiet(t, h)
+		state(t, h, id, Committed)
+	}
+}
+
+// 7.3: a chain of one node that is dead has nothing stably.
+func TestOnlyNodeFails(t *testing.T) {
+	h := house(t, 2, 1)
+	id, _, b := wroteBoth(t, h)
+	fails(t, h, 0)
+	ends(t, h, id)
+	h.Fix()
+	h.Calm()
+	state(t, h, id, Ending)
+	logged(t, h, 1, 1, prepared(id, pair(b, "y")))
+	logged(t, h, 2, 1)
+
+	h = house(t, 2, 1)
+	id, _, _ = wroteBoth(t, h)
+	nowhere := begin(t, h)
+	fails(t, h, 20)
+	ends(t, h, id)
+	ends(t, h, nowhere)
+	h.Fix()
+	h.Calm()
+	state(t, h, id, Ending)
+	state(t, h, nowhere, Ending)
 }
 
 // 7.2, 7.3: a whole chain that fails: its keys can't be had, who needs it stays Ending, and all else goes on.

@@ -36,7 +36,6 @@ func (h *House) Tick() {
 			h.way.Send(n.Tick()...)
 		}
 	}
-	h.settle()
 }
 
 // Calm brings all messages, and lets nodes tell again what was missed, until all chains have all that their heads have (or nothing moves any more): messages for which there was no room are missed once more.
@@ -57,12 +56,12 @@ func (h *House) deliverAll() {
 	}
 }
 
-// known is how much all nodes that live have, and call stable, together: while none fails it only grows.
+// known is how many commands all nodes that live have together: while none fails it only grows.
 func (h *House) known() int {
 	sum := 0
 	for k := range h.lines {
 		for _, n := range h.living(k) {
-			sum += n.Len() + n.Stable()
+			sum += n.Len()
 		}
 	}
 	return sum

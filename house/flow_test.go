@@ -346,6 +346,8 @@ func TestCalmOfMuch(t *testing.T) {
 		ends(t, h, id)
 		loseAll(t, h)
 	}
+	h.Tick()
+	stuff(t, h)
 	h.Calm()
 	for id := 1; id <= api.MaxTxs; id++ {
 		state(t, h, id, Committed)
@@ -356,6 +358,23 @@ func TestCalmOfMuch(t *testing.T) {
 		}
 	}
 	count(t, "Many", h.Many(), 0)
+}
+
+// 7.1, 4.2: nodes that got their configuration tell what Tick tells: that is under way at first.
+func TestManyAtFirst(t *testing.T) {
+	for shards := 1; shards <= 4; shards++ {
+		count(t, "Many", house(t, shards, 1).Many(), 0)
+		for nodes := 2; nodes <= 4; nodes++ {
+			h := house(t, shards, nodes)
+			count(t, "Many", h.Many(), (shards+1)*nodes)
+			quiet(t, h)
+			id := begin(t, h)
+			puts(t, h, id, "a", "x")
+			ends(t, h, id)
+			quiet(t, h)
+			state(t, h, id, Committed)
+		}
+	}
 }
 
 // 7.3: Tick: each node that lives tells something (one alone has nobody to tell).

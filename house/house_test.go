@@ -436,6 +436,29 @@ func TestManyKeys(t *testing.T) {
 	}
 }
 
+// 7.2: of one that wrote 20 keys, and must wait for another one, that is told first, whoever is in its way.
+func TestManyKeysAndWaits(t *testing.T) {
+	h := house(t, 1, 2)
+	elder, id := begin(t, h), begin(t, h)
+	for i := range 20 {
+		puts(t, h, id, string(rune('a'+i)), "x")
+	}
+	younger := begin(t, h)
+	lacks(t, h, elder, "u")
+	lacks(t, h, younger, "v")
+	lacks(t, h, younger, "w")
+	ends(t, h, younger)
+	is(t, "Put", h.Put(id, api.Pair{Key: "u"}), api.ErrCycle)
+	is(t, "Put", h.Put(id, api.Pair{Key: "v"}), api.ErrCycle)
+	is(t, "End", h.End(id), api.ErrCycle)
+	is(t, "Drop", h.Drop(elder), api.OK)
+	is(t, "Put", h.Put(id, api.Pair{Key: "u"}), api.ErrLimit)
+	h.Calm()
+	state(t, h, younger, Committed)
+	is(t, "Put", h.Put(id, api.Pair{Key: "v"}), api.ErrLimit)
+	commits(t, h, id)
+}
+
 // 7.2, P2: a Put that is refused for its many keys came to no shard: another configuration there is nothing to it.
 func TestManyKeysComeNowhere(t *testing.T) {
 	h := house(t, 2, 2)

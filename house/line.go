@@ -68,16 +68,13 @@ func (h *House) node(id int) (*chain.Node, bool) {
 	return nil, false
 }
 
-// news is what has become stable at a shard and was not followed yet, as far as one of its nodes that live knows.
-func (h *House) news(k int) []api.Cmd {
-	var news []api.Cmd
-	heard := h.lines[k].heard
-	for _, n := range h.living(k) {
-		if n.Stable() > heard+len(news) {
-			news = n.Log()[heard:n.Stable()]
-		}
+// news is what has become stable and was not followed yet: what the tail has all nodes have.
+func (l *line) news() []api.Cmd {
+	tail := l.nodes[len(l.nodes)-1]
+	if tail.Len() == l.heard {
+		return nil
 	}
-	return news
+	return tail.Log()[l.heard:]
 }
 
 // place is that of a transaction's command of some kind in a log; below 0: it is not there.

@@ -26,8 +26,8 @@ func (h *House) come(id int, key string) (*chain.Node, error) {
 // lock gets a key for a transaction that is open; those that are younger, open, and in its way are aborted. ErrCycle: it waits for that key; ErrLimit: too many do.
 func (h *House) lock(id int, key string, mode int) error {
 	_, wounded, err := h.keys.Lock(id, key, mode)
-	if api.Tell(err) == api.ErrLimit && h.yield(id, key, mode) {
-		h.wound(h.inWay(id, key, mode)) // it need not wait, so it doesn't matter how many do
+	if api.Tell(err) == api.ErrLimit && h.yield(id, key) {
+		h.wound(h.others(id, key)) // it need not wait, so it doesn't matter how many do
 		_, wounded, err = h.keys.Lock(id, key, mode)
 	}
 	switch api.Tell(err) {
@@ -53,25 +53,21 @@ func (h *House) wound(ids []int) {
 	}
 }
 
-// inWay is who holds a key in the way of a transaction that wants it so.
-func (h *House) inWay(id int, key string, mode int) []int {
+// others is who else holds a key.
+func (h *House) others(id int, key string) []int {
 	var l []int
 	for other := 1; other <= len(h.txs); other++ {
-		held := h.keys.Holds(other, key)
-		if other != id && held != locks.None && max(held, mode) == locks.Writes {
+		if other != id && h.keys.Holds(other, key) != locks.None {
 			l = append(l, other)
 		}
 	}
 	return l
 }
 
-// yield says whether all that are in the way of a transaction that wants a key would be aborted for it. Where an elder one waits, they would not: that one has wounded all it could.
-func (h *House) yield(id int, key string, mode int) bool {
-	if l := h.keys.Waits(key); len(l) > 0 && l[0] <= id {
-		return false
-	}
+// yield says whether all others who hold a key would be aborted for a transaction that wants it. Those who wait need not be asked: an elder one has wounded all it could, so somebody stays for whom it waits.
+func (h *House) yield(id int, key string) bool {
 	stays := func(other int) bool { return other < id || h.tx(other).state != Open }
-	return !slices.ContainsFunc(h.inWay(id, key, mode), stays)
+	return !slices.ContainsFunc(h.others(id, key), stays)
 }
 
 // waits says whether a transaction waits for some key.
